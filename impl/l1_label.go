@@ -44,6 +44,12 @@ func labelOf(n int) (label, bool) {
 	return label(n), true
 }
 
+// receives reports whether data with the label n may flow to l.
+func (l label) receives(n int) bool {
+	from, ok := labelOf(n)
+	return ok && from.flowsTo(l)
+}
+
 // labelOfLetter returns the label with the letter c, and whether there is one.
 func labelOfLetter(c byte) (label, bool) {
 	for n, letter := range labelLetters {
