@@ -539,8 +539,9 @@ func TestResultsOfManyPrograms(t *testing.T) {
 	}
 }
 
-func TestInvalidProgramsHaveNoFlow(t *testing.T) {
-	programs := map[string]impl.Program{
+// invalidPrograms returns programs that are not valid, each for another reason.
+func invalidPrograms() map[string]impl.Program {
+	return map[string]impl.Program{
 		"nothing": {}, "no variables": {Arrays: []int{0}}, "13 variables": {Vars: make([]int, 13)}, "3 arrays": {Vars: []int{0}, Arrays: make([]int, 3)},
 		"label 4": {Vars: []int{4}}, "label -1": {Vars: []int{0, -1}}, "label 4 of an array": {Vars: []int{0}, Arrays: []int{0, 4}},
 		"no statement": smallest(impl.Stmt{}), "kind 6": smallest(impl.Stmt{Kind: 6}), "kind -1": smallest(impl.Stmt{Kind: -1}),
@@ -554,7 +555,10 @@ func TestInvalidProgramsHaveNoFlow(t *testing.T) {
 		"61 statements":              smallest(slices.Repeat([]impl.Stmt{repeat(1)}, 61)...), "depth 6": smallest(nestOf(6, "else")), "depth 6 of an expression": smallest(assign(0, chainOf(6))),
 		"great depth": smallest(deepStmt(1)), "a circle": smallest(circularStmt(1)), "a circle in an expression": smallest(assign(0, circularExpr(1))), "a deep expression": smallest(ifElse(deepExpr(1), nil, nil)),
 	}
-	for what, p := range programs {
+}
+
+func TestInvalidProgramsHaveNoFlow(t *testing.T) {
+	for what, p := range invalidPrograms() {
 		checkInvalidFlow(t, what, p)
 	}
 	for what, p := range map[string]impl.Program{"60 statements": smallest(slices.Repeat([]impl.Stmt{repeat(1)}, 60)...), "depth 5": smallest(nestOf(5, "else"))} {
