@@ -510,8 +510,9 @@ func TestValidMemories(t *testing.T) {
 	checkValidMemory(t, parsed(t, "LHUX/HU/"), impl.Memory{Vals: shared, Arrays: [][]int{shared, shared}})
 }
 
-func TestInvalidMemories(t *testing.T) {
-	rows := map[string][]string{
+// invalidMemories returns, for programs, texts of what is not a memory of them.
+func invalidMemories() map[string][]string {
+	return map[string][]string{
 		"L//":                       {"", "1 2", "1 2 3", "-1", "256", "1000", "1/0 0 0 0", "1/", "/1", "1//"},
 		"LH//":                      {"", "1", "1 2 3", "-1 0", "0 -1", "256 0", "0 256", "1 2/0 0 0 0"},
 		"LHUX/L/":                   {"1 2 3/0 0 0 0", "1 2 3 4 5/0 0 0 0", "1 2 3 4", "1 2 3 4/0 0 0 0/0 0 0 0", "1 2 3 4/", "1 2 3 4/0", "1 2 3 4/0 0 0", "1 2 3 4/0 0 0 0 0", "1 2 3 4/0 0 0 0 0 0 0 0", "/0 0 0 0"},
@@ -519,7 +520,10 @@ func TestInvalidMemories(t *testing.T) {
 		"LHUXLHUXLHUX/HU/":          {"1 2 3 4 5 6 7 8 9 10 11/1 2 3 4/5 6 7 8", "1 2 3 4 5 6 7 8 9 10 11 12 13/1 2 3 4/5 6 7 8"},
 		"LH/L/P[a]:=b;ifb{a:=1;}{}": {"1 2", "1 2/1 2 3", "1/1 2 3 4", "0 0/1 2 3 4 5"},
 	}
-	for text, list := range rows {
+}
+
+func TestInvalidMemories(t *testing.T) {
+	for text, list := range invalidMemories() {
 		for _, m := range list {
 			checkInvalidMemory(t, m+" for "+text, parsed(t, text), memoryIn(m))
 		}
