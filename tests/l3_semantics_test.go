@@ -569,10 +569,9 @@ func TestMemoriesOfInvalidPrograms(t *testing.T) {
 	checkInvalidMemory(t, "3 arrays", impl.Program{Vars: []int{0}, Arrays: make([]int, 3)}, memoryIn("1/1 2 3 4/1 2 3 4/1 2 3 4"))
 }
 
-func TestInvalidExpressionsAreNotEvaluated(t *testing.T) {
-	p := parsed(t, "LH/L/a:=1;")
-	m := memoryIn("1 2/3 4 5 6")
-	rows := map[string]impl.Expr{
+// invalidExprs returns expressions that are not valid in a program with two variables and an array, each for another reason.
+func invalidExprs() map[string]impl.Expr {
+	return map[string]impl.Expr{
 		"nothing": {}, "kind 12": {Kind: 12}, "kind -1": {Kind: -1},
 		"constant -1": constant(-1), "constant 256": constant(256),
 		"variable -1": variable(-1), "variable 2": variable(2),
@@ -591,7 +590,12 @@ func TestInvalidExpressionsAreNotEvaluated(t *testing.T) {
 		"an invalid third operand":  operation(impl.ExprSelect, constant(1), read(0, constant(1)), variable(2)),
 		"depth 6":                   chainOf(6), "17 nodes": bushOf(17), "great depth": deepExpr(1), "a circle": circularExpr(1),
 	}
-	for what, e := range rows {
+}
+
+func TestInvalidExpressionsAreNotEvaluated(t *testing.T) {
+	p := parsed(t, "LH/L/a:=1;")
+	m := memoryIn("1 2/3 4 5 6")
+	for what, e := range invalidExprs() {
 		if n, events, ok := impl.EvalExpr(p, m, e); n != 0 || len(events) != 0 || ok {
 			t.Errorf("%s: EvalExpr = %d, %v, %v", what, n, events, ok)
 		}

@@ -518,17 +518,23 @@ func (s *source) mostlySecret(p impl.Program) impl.Program {
 	return p
 }
 
+// someSecretProgram returns a valid program with at most that many variables, most of which are secret. Most such programs pass CheckFlow.
+func (s *source) someSecretProgram(vars int) impl.Program {
+	p := s.mostlySecret(s.someProgram(vars))
+	if s.below(3) > 0 {
+		p.Body = withoutReleases(p.Body)
+	}
+	if inferred, ok := impl.InferLabels(p); ok && s.below(8) > 0 {
+		p = inferred
+	}
+	return p
+}
+
 func TestManyLinearizedPrograms(t *testing.T) {
 	numbers := source(30)
 	seen := map[string]int{}
 	for range 12000 {
-		p := numbers.mostlySecret(numbers.someProgram(7))
-		if numbers.below(3) > 0 {
-			p.Body = withoutReleases(p.Body)
-		}
-		if inferred, ok := impl.InferLabels(p); ok && numbers.below(8) > 0 {
-			p = inferred
-		}
+		p := numbers.someSecretProgram(7)
 		text := impl.FormatProgram(p)
 		q, ok := impl.Linearize(p)
 		want, wanted := impl.Program{}, false
