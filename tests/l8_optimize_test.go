@@ -682,11 +682,18 @@ func plainlyTrimmed(c impl.Code) impl.Code {
 		if reach[at] && !(c.List[at].Op == impl.OpJump && c.List[at].A == at+1) {
 			continue
 		}
-		result.List = slices.Delete(result.List, at, at+1)
-		for i, in := range result.List {
-			if target := plainTarget(in); target > at {
-				result.List[i] = withTarget(in, target-1)
-			}
+		result = withoutInstr(result, at)
+	}
+	return result
+}
+
+// withoutInstr returns code without an instruction. A target that was this one becomes the next one.
+func withoutInstr(c impl.Code, at int) impl.Code {
+	result := clonedCode(c)
+	result.List = slices.Delete(result.List, at, at+1)
+	for i, in := range result.List {
+		if target := plainTarget(in); target > at {
+			result.List[i] = withTarget(in, target-1)
 		}
 	}
 	return result
@@ -1383,37 +1390,41 @@ func TestOptimizerKeepsArguments(t *testing.T) {
 	}
 }
 
-func TestOptimizerResultsShareNoMemory(t *testing.T) {
+// checkOwnCode checks that the results of a function that changes code share no memory with each other or with its argument, and that the labels of the code may overlap.
+func checkOwnCode(t *testing.T, what string, apply func(c impl.Code) (impl.Code, bool), list string) {
+	t.Helper()
 	listText := func(list []impl.Instr) string { return plainCodeText(impl.Code{List: list}) }
-	for _, list := range []string{everyOperation, "halt", "jump 0", "jump 2; halt; jump 3; jump 4; zero 0 2; loop 0 3; jump 1", "zero 0 3; halt; fence; jump 2; halt", "jump 1; jump 2; halt"} {
+	c := spareCode(codeIn(t, "LH/L", list))
+	call := func() []impl.Instr { result, _ := apply(c); return result.List }
+	first, _ := apply(c)
+	second, _ := apply(c)
+	used := map[*int]bool{}
+	numbersUsed(used, c.Vars, c.Arrays)
+	if !numbersUsed(used, first.Vars, first.Arrays) || !numbersUsed(used, second.Vars, second.Arrays) {
+		t.Errorf("a result of %s for %s shares labels", what, list)
+	}
+	checkAlone(t, what, call, listText, instr(impl.OpFence))
+	want := plainCodeText(second)
+	for i := range c.List[:cap(c.List)] {
+		c.List[:cap(c.List)][i] = instr(impl.OpFence)
+	}
+	if plainCodeText(second) != want {
+		t.Errorf("a result of %s for %s shares memory with its argument", what, list)
+	}
+	labels := []int{0, 1, 2, 3}
+	both := impl.Code{Vars: labels, Arrays: labels[1:3], List: codeIn(t, "LH/L", list).List}
+	if got, ok := apply(both); !ok || !numbersUsed(map[*int]bool{}, got.Vars, got.Arrays) || numbersText(labels) != "0 1 2 3" || !slices.Equal(got.Vars, labels) || !slices.Equal(got.Arrays, labels[1:3]) {
+		t.Errorf("%s of %s = %v, %v, and the labels are %v", what, list, got, ok, labels)
+	}
+}
+
+func TestOptimizerResultsShareNoMemory(t *testing.T) {
+	for _, list := range []string{everyOperation, "halt", "jump 0", "jump 2; halt; jump 3; jump 4; zero 0 2; loop 0 3; jump 1", "zero 0 3; halt; fence; jump 2; halt", "jump 1; jump 2; halt", "jump 1; halt"} {
 		for _, optimizer := range optimizers {
-			c := spareCode(codeIn(t, "LH/L", list))
-			call := func() []impl.Instr { result, _ := optimizer.apply(c); return result.List }
-			first, _ := optimizer.apply(c)
-			second, _ := optimizer.apply(c)
-			used := map[*int]bool{}
-			numbersUsed(used, c.Vars, c.Arrays)
-			if !numbersUsed(used, first.Vars, first.Arrays) || !numbersUsed(used, second.Vars, second.Arrays) {
-				t.Errorf("a result of %s for %s shares labels", optimizer.name, list)
-			}
-			checkAlone(t, optimizer.name, call, listText, instr(impl.OpFence))
-			want := plainCodeText(second)
-			for i := range c.List[:cap(c.List)] {
-				c.List[:cap(c.List)][i] = instr(impl.OpFence)
-			}
-			if plainCodeText(second) != want {
-				t.Errorf("a result of %s for %s shares memory with its argument", optimizer.name, list)
-			}
+			checkOwnCode(t, optimizer.name, optimizer.apply, list)
 		}
 		c := codeIn(t, "LH/L", list)
 		checkAlone(t, "ReachableCode", func() []bool { return impl.ReachableCode(c) }, marks, false)
-	}
-	labels := []int{0, 1, 2, 3}
-	both := impl.Code{Vars: labels, Arrays: labels[1:3], List: []impl.Instr{instr(impl.OpJump, 1), instr(impl.OpHalt)}}
-	for _, optimizer := range optimizers {
-		if got, ok := optimizer.apply(both); !ok || !numbersUsed(map[*int]bool{}, got.Vars, got.Arrays) || numbersText(labels) != "0 1 2 3" || !slices.Equal(got.Vars, labels) || !slices.Equal(got.Arrays, labels[1:3]) {
-			t.Errorf("%s = %v, %v, and the labels are %v", optimizer.name, got, ok, labels)
-		}
 	}
 }
 
